@@ -131,6 +131,22 @@ func TestTakeOfNoSaying(t *testing.T) {
 	}
 }
 
+// TestTakes: a token is one that Take takes, or Take tells an error of it.
+func TestTakes(t *testing.T) {
+	for cmd := api.CWill; cmd <= api.CDont; cmd++ {
+		for opt := range 256 {
+			if !qneg.Takes(saying(cmd, opt)) {
+				t.Errorf("Takes(%#v) = false", saying(cmd, opt))
+			}
+		}
+	}
+	for _, tok := range noSayings() {
+		if qneg.Takes(tok) {
+			t.Errorf("Takes(%#v) = true", tok)
+		}
+	}
+}
+
 // noNegs has Negs with one state that is none: of the option that is spoken of, or of another one.
 func noNegs() []api.Neg {
 	var l []api.Neg
