@@ -10,7 +10,7 @@ import (
 func expectGet(t *testing.T, l []int, i, none, want int) {
 	t.Helper()
 	if got := args.Get(l, i, none); got != want {
-		t.Errorf("Get(%.300v, %d, %d) = %d; want %d", l, i, none, got, want)
+		t.Errorf("Get(%v, %d, %d) = %d; want %d", l, i, none, got, want)
 	}
 }
 

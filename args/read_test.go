@@ -13,7 +13,7 @@ import (
 func expectRead(t *testing.T, s string, want []int, err api.Errno) {
 	t.Helper()
 	if l, e := args.Read(s); !slices.Equal(l, want) || e != err {
-		t.Errorf("Read(%.200q of %d) = %.300v, %d; want %.300v, %d", s, len(s), l, e, want, err)
+		t.Errorf("Read(%.200q of %d) = %v, %d; want %v, %d", s, len(s), l, e, want, err)
 	}
 }
 

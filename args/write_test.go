@@ -14,7 +14,7 @@ import (
 func expectWrite(t *testing.T, l []int, want string, err api.Errno) {
 	t.Helper()
 	if s, e := args.Write(l); s != want || e != err {
-		t.Errorf("Write(%.300v of %d) = %q, %d; want %q, %d", l, len(l), s, e, want, err)
+		t.Errorf("Write(%v of %d) = %q, %d; want %q, %d", l, len(l), s, e, want, err)
 	}
 }
 
